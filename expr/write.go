@@ -41,18 +41,18 @@ func write(out *strings.Builder, node Node) {
 		out.WriteRune(n.Letter)
 	case Marked:
 		writeAs(out, n.Of, asMarked)
-		out.WriteRune(n.Mark)
+		out.WriteRune(n.Mark.Letter)
 	case Negated:
-		out.WriteRune(minus)
+		out.WriteRune(Minus)
 		writeAs(out, n.Of, asFactor)
 	case Product:
 		// A row is worked from the left on, so on the right a row of the same kind needs brackets.
 		writeAs(out, n.Left, asProduct)
-		out.WriteRune(n.Sign)
+		out.WriteRune(n.Sign.Letter)
 		writeAs(out, n.Right, asFactor)
 	case Sum:
 		writeAs(out, n.Left, asSum)
-		out.WriteRune(n.Sign)
+		out.WriteRune(n.Sign.Letter)
 		writeAs(out, n.Right, asProduct)
 	}
 }

@@ -43,21 +43,3 @@ func read(text string) (expr.Node, Errno, int) {
 	}
 	return node, OK, 0
 }
-
-// Book is names that stand for numbers. Make it by New.
-type Book struct{}
-
-// New makes a book without names.
-func New() *Book { return &Book{} }
-
-// Let lets a name stand for a number (P4).
-func (b *Book) Let(name string, text string) (Errno, int) { return 0, 0 }
-
-// Value works an expression (P5).
-func (b *Book) Value(text string) ([4]int, Errno, int) { return [4]int{}, 0, 0 }
-
-// Digits tells a number digit by digit (P6).
-func (b *Book) Digits(text string, k int) (int, []Digit, Errno, int) { return 0, nil, 0, 0 }
-
-// Near tells what is nearest to a number (P7).
-func (b *Book) Near(text string, n int) ([2]int, Errno, int) { return [2]int{}, 0, 0 }

@@ -73,41 +73,56 @@ func strength(sign rune) int {
 	return map[rune]int{'(': 0, '+': 1, '−': 1, '×': 2, '÷': 2, 'n': 3}[sign]
 }
 
-// workOf answers the numbers and signs of an expression in the order in which they are worked: what is worked, and on what.
-func workOf(text string) string {
-	var out strings.Builder
-	var waiting []rune
+// worked is a number (or name) of an expression, or a sign that is worked, and its place.
+type worked struct {
+	text  string
+	place int
+}
+
+// orderOf answers the numbers and signs of an expression in the order in which they are worked.
+func orderOf(text string) []worked {
+	var order, waiting []worked
+	signOf := func(w worked) rune { return []rune(w.text)[0] }
 	release := func(least int) {
-		for len(waiting) > 0 && strength(waiting[len(waiting)-1]) >= least {
-			out.WriteString(" " + string(waiting[len(waiting)-1]))
+		for len(waiting) > 0 && strength(signOf(waiting[len(waiting)-1])) >= least {
+			order = append(order, waiting[len(waiting)-1])
 			waiting = waiting[:len(waiting)-1]
 		}
 	}
 	mayBegin, inNumeral := true, false
-	for _, r := range text {
+	for place, r := range text {
 		numeral := strings.ContainsRune("0123456789½¼¾", r)
 		switch {
 		case r == ' ':
 			continue
 		case r == '(':
-			waiting = append(waiting, r)
+			waiting = append(waiting, worked{"(", place})
 		case r == ')':
 			release(1)
 			waiting = waiting[:len(waiting)-1]
 		case r == '−' && mayBegin:
-			waiting = append(waiting, 'n')
+			waiting = append(waiting, worked{"n", place})
 		case strength(r) > 0:
 			release(strength(r))
-			waiting = append(waiting, r)
+			waiting = append(waiting, worked{string(r), place})
 		case numeral && inNumeral:
-			out.WriteRune(r)
+			order[len(order)-1].text += string(r)
 		default:
-			out.WriteString(" " + string(r))
+			order = append(order, worked{string(r), place})
 		}
 		inNumeral = numeral
 		mayBegin = r == '(' || strength(r) > 0
 	}
 	release(1)
+	return order
+}
+
+// workOf says what is worked, and on what.
+func workOf(text string) string {
+	var out strings.Builder
+	for _, w := range orderOf(text) {
+		out.WriteString(" " + w.text)
+	}
 	return out.String()
 }
 
