@@ -1,4 +1,4 @@
-// Package number: numbers of two parts, reckoned exactly, with fractions that must not become too big, as DOC.md's 'Words' say it.
+// Package number: numbers of two parts, reckoned exactly, with fractions that must not become too big, and told digit by digit, as DOC.md's 'Words' say it.
 package number
 
 // maxPart is how great a numerator, above or below 0, and a denominator may be.

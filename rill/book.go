@@ -64,12 +64,6 @@ func (b *Book) Value(text string) ([4]int, Errno, int) {
 	return [4]int{int(re.Num), int(re.Den), int(im.Num), int(im.Den)}, OK, 0
 }
 
-// Digits tells a number digit by digit (P6).
-func (b *Book) Digits(text string, k int) (int, []Digit, Errno, int) { return 0, nil, 0, 0 }
-
-// Near tells what is nearest to a number (P7).
-func (b *Book) Near(text string, n int) ([2]int, Errno, int) { return [2]int{}, 0, 0 }
-
 func (b *Book) current() *page {
 	b.lock.Lock()
 	defer b.lock.Unlock()
